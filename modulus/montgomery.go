@@ -31,6 +31,20 @@ func (m *Modulus) product(a, b api.Num) api.Num {
 	return m.below(sum)
 }
 
+// down tells a number from 0 to n that, times 2^384, leaves what a does: each
+// round lays in n as often as makes the lowest word 0, and drops that word.
+func (m *Modulus) down(a api.Num) api.Num {
+	for range a {
+		times := a[0] * m.wrap
+		_, carry := mulAdd(times, m.n[0], a[0], 0)
+		for j := 1; j < len(a); j++ {
+			a[j-1], carry = mulAdd(times, m.n[j], a[j], carry)
+		}
+		a[len(a)-1] = carry
+	}
+	return a
+}
+
 // mulAdd tells the two words of a times b, more and carry together. These are
 // at most (2^64 - 1)^2 + 2 (2^64 - 1) = 2^128 - 1, so that nothing is lost.
 func mulAdd(a, b, more, carry uint64) (uint64, uint64) {
@@ -59,27 +73,4 @@ func wrapOf(word uint64) uint64 {
 		inverse *= 2 - word*inverse
 	}
 	return -inverse
-}
-
-// oneOf tells what is left of 2^384.
-func oneOf(n api.Num) api.Num {
-	most, _ := words.Sub(api.Num{}, words.Of(1))
-	_, left, _ := words.Divide(most, n)
-	// This stays below n, as no odd number from 3 on goes into 2^384.
-	one, _ := words.Add(left, words.Of(1))
-	return one
-}
-
-// squareOfOne tells what is left of 2^768, which is 2^384 in Montgomery's form:
-// 2^3 by three doublings, and squared seven times, as 384 is 3 times 2^7.
-func (m *Modulus) squareOfOne() api.Num {
-	square := m.one
-	for range 3 {
-		double, _ := words.Add(square, square)
-		square = m.below(double)
-	}
-	for range 7 {
-		square = m.product(square, square)
-	}
-	return square
 }

@@ -26,7 +26,13 @@ func (m *Modulus) Wide(low, high api.Num) api.Num {
 	if !m.made() {
 		return api.Num{}
 	}
-	return m.Add(low, m.product(high, m.square))
+	// What down tells of low, and high, are together the number without 2^384,
+	// which the product with its square puts back.
+	sum, carried := words.Add(high, m.down(low))
+	if carried {
+		sum, _ = words.Sub(sum, m.n)
+	}
+	return m.product(sum, m.square)
 }
 
 // Add, Sub, Neg, Mul, Pow: what is left of these.
